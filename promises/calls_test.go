@@ -7,6 +7,7 @@ import (
 
 	"borrowing/api"
 	"borrowing/borrowing"
+	"borrowing/machine"
 )
 
 var seeds = []string{
@@ -24,6 +25,13 @@ func wellFormed(t *testing.T, text string) {
 	p, l, f, v := borrowing.Graph(text)
 	if v.Point != -1 || v.Loan != -1 {
 		t.Fatalf("P9: Graph(%q): %s", text, showVerdict(v))
+	}
+	m, own := machine.New(text)
+	if own != v || (m == nil) != (v.Rule != api.Accept) {
+		t.Fatalf("P11: New(%q): a machine: %v; %s, of Graph %s", text, m != nil, showVerdict(own), showVerdict(v))
+	}
+	for n := 0; m != nil && n < 40 && m.Step(-n) == api.Ran; n++ {
+		m.Show()
 	}
 	if v.Rule != api.Accept {
 		if p != nil || l != nil || f != nil {
