@@ -17,6 +17,7 @@ var seeds = []string{
 	"fn f(x:&'a mut [&'b int,int], y:&int):[int,&'b int] {let k:int; k=(*x).1+*y; ret=[k,(*x).0];}\n{let n:int; n=2; let q:&int; q=&n;}",
 	"fn f(n:int):int {let m:int; if n {m=n+9999; m=f(m); ret=m+2;} else {ret=5;}}{let a:int; a=3; a=f(a); out a;}",
 	"{let b:box [box int,&mut int]; drop b; *(((*b).0))=*b.0(1,?); # all\n}",
+	"fn f(x:&'a mut &'b int,y:&'b int):&'b int {*x=y; ret=&**x;}{let a:int; a=1; let r:&int; r=&a; let b:&mut &int; b=&mut r; r=f(b,r); out *r;}",
 }
 
 // wellFormed: what holds of every answer.
@@ -26,6 +27,7 @@ func wellFormed(t *testing.T, text string) {
 	if v.Point != -1 || v.Loan != -1 {
 		t.Fatalf("P9: Graph(%q): %s", text, showVerdict(v))
 	}
+	judged(t, text, p, v)
 	m, own := machine.New(text)
 	if own != v || (m == nil) != (v.Rule != api.Accept) {
 		t.Fatalf("P11: New(%q): a machine: %v; %s, of Graph %s", text, m != nil, showVerdict(own), showVerdict(v))
@@ -52,6 +54,25 @@ func wellFormed(t *testing.T, text string) {
 		if q.DVar < 0 || q.DVar > len(l) || q.Rv == api.Call && q.Fn >= len(f)-1 {
 			t.Fatalf("P9: Graph(%q): point %d: %s", text, i, showPoint(q))
 		}
+	}
+}
+
+// judged: what holds of every verdict of Check beside that of Graph.
+func judged(t *testing.T, text string, points []api.Point, own api.Verdict) {
+	t.Helper()
+	v := borrowing.Check(text)
+	switch {
+	case own.Rule != api.Accept || v.Rule == api.Accept:
+		if v != own {
+			t.Fatalf("P21: Check(%q): %s, of Graph %s", text, showVerdict(v), showVerdict(own))
+		}
+	case v.Rule != api.RUninit && v.Rule != api.ROutlives && v.Rule != api.RBorrowed,
+		v.Point < 0 || v.Point >= len(points),
+		v.Line != points[v.Point].Line || v.Col != points[v.Point].Col,
+		(v.Rule == api.RBorrowed) != (v.Loan >= 0),
+		v.Loan < -1 || v.Loan >= len(points),
+		v.Loan >= 0 && points[v.Loan].Rv != api.Ref && points[v.Loan].Rv != api.Mut:
+		t.Fatalf("P21: Check(%q): %s", text, showVerdict(v))
 	}
 }
 

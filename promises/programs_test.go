@@ -25,6 +25,8 @@ type variable struct {
 // writer: programs by chance that have a graph.
 type writer struct {
 	d     *dice
+	kinds []string
+	ready []string // types of variables that have values from the program's start
 	names int
 	scope []*variable
 	funcs []signature
@@ -38,6 +40,8 @@ type signature struct {
 
 // kinds: the types of variables: numbers, boxes, references, references to and in others, pairs.
 var kinds = []string{"i", "i", "i", "bi", "bi", "ri", "ri", "mi", "mi", "mi", "pii", "pbii", "rbi", "mbi", "rmi", "mmi", "bbi", "bmi", "bri", "mpii", "rpii", "mri", "primi", "bpii", "mpbii", "rri", "piri"}
+
+var tangleKinds = []string{"i", "bi", "ri", "ri", "mi", "mi", "mi", "rri", "mri", "mri", "mmi", "mmi", "rmi", "bri", "bmi", "mbi", "piri", "prii", "primi", "pmimi", "mpiri", "rpii", "mpii", "mbri", "mmri"}
 
 // takeType: the first type of some signs, and the rest.
 func takeType(signs string) (string, string) {
@@ -204,6 +208,8 @@ func (w *writer) give(s spot) string {
 	return ""
 }
 
+func (w *writer) kind() string { return w.kinds[w.d.below(len(w.kinds))] }
+
 func (w *writer) fresh() string {
 	w.names++
 	return fmt.Sprintf("v%d", w.names-1)
@@ -214,7 +220,7 @@ func (w *writer) let() string {
 	v := &variable{name: w.fresh()}
 	value := ""
 	for n := 0; n < 5 && value == ""; n++ {
-		v.signs = kinds[w.d.below(len(kinds))]
+		v.signs = w.kind()
 		value = w.give(v.spot())
 	}
 	w.scope = append(w.scope, v)
@@ -280,21 +286,21 @@ func (w *writer) function(f signature) string {
 	return text + "):" + w.sign(f.result) + body[:len(body)-1] + last + "}"
 }
 
-// sign: a type as a signature spells it, often with lifetimes.
+// sign: a type as a signature spells it, most references with one of two lifetimes.
 func (w *writer) sign(signs string) string {
-	text := spell(signs)
-	if w.d.below(4) == 0 {
-		return text
+	parts := strings.SplitAfter(spell(signs), "&")
+	for i := 0; i < len(parts)-1; i++ {
+		parts[i] += []string{"", "'a ", "'a ", "'a ", "'b "}[w.d.below(5)]
 	}
-	return strings.ReplaceAll(text, "&", "&'a ")
+	return strings.Join(parts, "")
 }
 
 func (w *writer) program() string {
 	w.names, w.funcs = 0, nil
 	for n := w.d.below(3); n > 0; n-- {
-		f := signature{name: "f" + fmt.Sprint(n), result: kinds[w.d.below(len(kinds))]}
+		f := signature{name: "f" + fmt.Sprint(n), result: w.kind()}
 		for k := w.d.below(3); k > 0; k-- {
-			f.params = append(f.params, kinds[w.d.below(len(kinds))])
+			f.params = append(f.params, w.kind())
 		}
 		w.funcs = append(w.funcs, f)
 	}
@@ -303,13 +309,34 @@ func (w *writer) program() string {
 		text += w.function(f)
 	}
 	w.scope = nil
-	return text + w.block(2)
+	return text + "{" + w.prepare() + w.block(2)[1:]
+}
+
+// prepare: the variables that have values from the start.
+func (w *writer) prepare() string {
+	text := ""
+	for _, signs := range w.ready {
+		v := &variable{name: w.fresh(), signs: signs}
+		text += "let " + v.name + ":" + spell(signs) + ";" + w.give(v.spot())
+		w.scope = append(w.scope, v)
+	}
+	return text
 }
 
 // programs: many programs by chance that have a graph.
 func programs(t *testing.T, seed uint64, many int) []string {
 	t.Helper()
-	w := &writer{d: &dice{seed}}
+	return written(t, &writer{d: &dice{seed}, kinds: kinds}, many)
+}
+
+// tangles: programs by chance in which references abound.
+func tangles(t *testing.T, seed uint64, many int) []string {
+	t.Helper()
+	return written(t, &writer{d: &dice{seed}, kinds: tangleKinds, ready: []string{"i", "i", "ri", "mi"}}, many)
+}
+
+func written(t *testing.T, w *writer, many int) []string {
+	t.Helper()
 	var list []string
 	for tries := 0; len(list) < many; tries++ {
 		if tries > 20*many {

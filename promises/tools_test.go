@@ -31,13 +31,16 @@ func marked(t *testing.T, text string) (string, int, int) {
 	return ahead + text[at+1:], strings.Count(ahead, "\n") + 1, at - strings.LastIndexByte(ahead, '\n')
 }
 
-// wantAt: the text breaks this rule there, and nothing else comes out.
+// wantAt: the text breaks this rule there, and nothing else comes out; Check says the same.
 func wantAt(t *testing.T, text string, rule, line, col int) {
 	t.Helper()
 	p, l, f, v := borrowing.Graph(text)
 	want := api.Verdict{Rule: rule, Line: line, Col: col, Point: -1, Loan: -1}
 	if v != want {
 		t.Errorf("Graph(%.600q): %s, want %s", text, showVerdict(v), showVerdict(want))
+	}
+	if c := borrowing.Check(text); c != want {
+		t.Errorf("P21: Check(%.600q): %s, want %s", text, showVerdict(c), showVerdict(want))
 	}
 	if p != nil || l != nil || f != nil {
 		t.Errorf("Graph(%.600q): lists beside a broken rule: %d points, %d variables, %d functions", text, len(p), len(l), len(f))

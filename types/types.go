@@ -72,6 +72,51 @@ func Pointed(signs string) string {
 	return ""
 }
 
+// Step tells the type of what a step of a place leads to ("": there is nothing).
+func Step(signs string, step byte) string {
+	switch step {
+	case '0':
+		return First(signs)
+	case '1':
+		return Second(signs)
+	case '*':
+		return Pointed(signs)
+	}
+	return ""
+}
+
+// IsReference tells whether a type is that of a reference.
+func IsReference(signs string) bool {
+	return len(signs) > 0 && (signs[0] == 'r' || signs[0] == 'm')
+}
+
+// References tells how many references are in a type.
+func References(signs string) int {
+	count := 0
+	for at := 0; at < len(signs); at++ {
+		if IsReference(signs[at:]) {
+			count++
+		}
+	}
+	return count
+}
+
+// BelowMut tells of each reference in a type, in their order, whether it is below an m.
+func BelowMut(signs string) []bool {
+	below := make([]bool, 0, References(signs))
+	behind := 0
+	for at := 0; at < len(signs); at++ {
+		if !IsReference(signs[at:]) {
+			continue
+		}
+		below = append(below, at < behind)
+		if signs[at] == 'm' && at >= behind {
+			behind = end(signs, at)
+		}
+	}
+	return below
+}
+
 // end tells where the type that begins at a sign is over: a pair asks for one type more, a number ends one.
 func end(signs string, at int) int {
 	open := 1

@@ -35,6 +35,38 @@ func TestTypes(t *testing.T) {
 	}
 }
 
+func TestReferences(t *testing.T) {
+	for _, c := range []struct{ signs, below string }{
+		{"i", ""}, {"bi", ""}, {"pii", ""}, {"ri", "-"}, {"mi", "-"}, {"rri", "--"}, {"mri", "-m"}, {"mmi", "-m"}, {"rmri", "--m"}, {"mrri", "-mm"},
+		{"bmbri", "-m"}, {"pmriri", "-m-"}, {"primri", "--m"}, {"mpririri", "-mm-"}, {"mprimi", "-mm"}, {"rpmriri", "--m-"}, {"", ""},
+	} {
+		below := ""
+		for _, b := range BelowMut(c.signs) {
+			below += map[bool]string{true: "m", false: "-"}[b]
+		}
+		if below != c.below || References(c.signs) != len(c.below) {
+			t.Errorf("%q: %d references, %q, want %q", c.signs, References(c.signs), below, c.below)
+		}
+		if IsReference(c.signs) != (c.signs != "" && (c.signs[0] == 'r' || c.signs[0] == 'm')) {
+			t.Errorf("IsReference(%q): %t", c.signs, IsReference(c.signs))
+		}
+	}
+}
+
+func TestStep(t *testing.T) {
+	for _, c := range []struct {
+		signs string
+		step  byte
+		want  string
+	}{
+		{"pibi", '0', "i"}, {"pibi", '1', "bi"}, {"pibi", '*', ""}, {"bpii", '*', "pii"}, {"ri", '*', "i"}, {"mi", '*', "i"}, {"ri", '0', ""}, {"i", '*', ""}, {"i", 'x', ""}, {"", '*', ""},
+	} {
+		if got := Step(c.signs, c.step); got != c.want {
+			t.Errorf("Step(%q, %c): %q, want %q", c.signs, c.step, got, c.want)
+		}
+	}
+}
+
 // TestBrokenSigns: what is no type does no harm.
 func TestBrokenSigns(t *testing.T) {
 	for _, signs := range []string{"p", "pi", "b", "r", "m", "pp", "ppi", "x", "\xff", "ii", "pb"} {
@@ -44,5 +76,8 @@ func TestBrokenSigns(t *testing.T) {
 			t.Errorf("%q: parts %q", signs, whole)
 		}
 		Pointed(signs)
+		if n := len(BelowMut(signs)); n != References(signs) {
+			t.Errorf("%q: %d references, and %d", signs, References(signs), n)
+		}
 	}
 }
