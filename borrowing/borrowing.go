@@ -12,25 +12,31 @@ import (
 
 // Check tells the first rule that is broken (P21).
 func Check(text string) api.Verdict {
+	verdict, _, _ := judge(text)
+	return verdict
+}
+
+// judge tells Check's verdict, and what the reason for it is found from: the graph, and its regions, unless an earlier rule is broken.
+func judge(text string) (api.Verdict, program.Program, regions.Map) {
 	points, locals, funcs, verdict := graph.Build(text)
-	if verdict.Rule != api.Accept {
-		return verdict
-	}
 	p := program.Program{Points: points, Locals: locals, Funcs: funcs}
+	if verdict.Rule != api.Accept {
+		return verdict, p, regions.Map{}
+	}
 	at := moves.First(p)
 	if at >= 0 {
-		return broken(p, api.RUninit, at, -1)
+		return broken(p, api.RUninit, at, -1), p, regions.Map{}
 	}
 	m := regions.Build(p)
-	at = m.Outlives()
-	if at >= 0 {
-		return broken(p, api.ROutlives, at, -1)
+	chain, _, _ := m.Outlives()
+	if len(chain) > 0 {
+		return broken(p, api.ROutlives, chain[0], -1), p, m
 	}
 	at, loan := loans.First(p, m)
 	if at >= 0 {
-		return broken(p, api.RBorrowed, at, loan)
+		return broken(p, api.RBorrowed, at, loan), p, m
 	}
-	return verdict
+	return verdict, p, m
 }
 
 // broken tells the verdict of a rule that is broken at a point.
@@ -48,5 +54,19 @@ func Graph(text string) ([]api.Point, []api.Local, []api.Func, api.Verdict) {
 	return graph.Build(text)
 }
 
-// Why tells the reason of a move or a borrow that is refused (P22).
-func Why(text string) ([]int, []int, api.Reason) { return nil, nil, api.Reason{} }
+// Why tells the reason of a move, a borrow or a lifetime that is refused (P22).
+func Why(text string) ([]int, []int, api.Reason) {
+	verdict, p, m := judge(text)
+	switch verdict.Rule {
+	case api.RUninit:
+		path, variable := moves.Reason(p, verdict.Point)
+		return path, nil, api.Reason{At: len(path) - 1, Var: variable}
+	case api.ROutlives:
+		chain, one, other := m.Outlives()
+		return nil, chain, api.Reason{At: one, Var: other}
+	case api.RBorrowed:
+		path, at, variable := loans.Reason(p, m, verdict.Point, verdict.Loan)
+		return path, m.Chain(verdict.Loan, variable), api.Reason{At: at, Var: variable}
+	}
+	return nil, nil, api.Reason{}
+}

@@ -1,6 +1,9 @@
 package loans
 
-import "borrowing/program"
+import (
+	"borrowing/paths"
+	"borrowing/program"
+)
 
 // liveness tells of each variable and point whether the variable is live there.
 type liveness struct {
@@ -20,7 +23,7 @@ func (l *liveness) anyOf(chosen []bool, points int) []bool {
 	some := make([]bool, points)
 	for v := 0; v < len(l.at) && v < len(chosen); v++ {
 		for i := 0; i < points && chosen[v]; i++ {
-			some[i] = some[i] || isIn(l.at[v], i)
+			some[i] = some[i] || paths.In(l.at[v], i)
 		}
 	}
 	return some
@@ -57,10 +60,10 @@ func ownEnd(p program.Program, variable int) int {
 	return -1
 }
 
-// wanted tells whether a point needs a variable's value, the caller's needs at the End among them.
+// wanted tells whether a variable is wanted at a point: used there. What lives up to an End is wanted there, by the caller: all other uses lie ahead of it.
 func wanted(p program.Program, point, variable, end int) bool {
-	if point == end {
-		return true
+	if end >= 0 {
+		return point == end
 	}
 	visits := p.Visits(point)
 	for k := 0; k < len(visits); k++ {
@@ -79,9 +82,5 @@ func stays(p program.Program, point, variable, end int) bool {
 // leads tells whether a way out of a point leads to one of some points.
 func leads(p program.Program, point int, to []bool) bool {
 	next, other := p.Ways(point)
-	return isIn(to, next) || isIn(to, other)
-}
-
-func isIn(list []bool, point int) bool {
-	return point >= 0 && point < len(list) && list[point]
+	return paths.In(to, next) || paths.In(to, other)
 }

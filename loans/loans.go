@@ -1,8 +1,9 @@
-// Package loans tells where loans are in scope (P19), and what conflicts with them (P20).
+// Package loans tells where loans are in scope (P19), what conflicts with them (P20), and the reason (P22).
 package loans
 
 import (
 	"borrowing/api"
+	"borrowing/paths"
 	"borrowing/places"
 	"borrowing/program"
 	"borrowing/regions"
@@ -10,10 +11,11 @@ import (
 
 // loan is a point that borrows.
 type loan struct {
-	point int
-	place places.Place // what is borrowed
-	mut   bool
-	scope []bool // of each point: whether the loan is in scope there
+	point   int
+	place   places.Place // what is borrowed
+	mut     bool
+	carried []bool       // of each point: whether the loan is carried there
+	reached paths.Search // from the loan on, as long as it is carried and what is borrowed is still the same
 }
 
 // First tells the first point that touches what is borrowed, and the loan's point (-1, -1: none does).
@@ -36,23 +38,37 @@ func find(p program.Program, m regions.Map) []loan {
 	alive := live(p)
 	var list []loan
 	for i := 0; i < len(p.Points); i++ {
-		at := p.Points[i]
-		if at.Rv != api.Ref && at.Rv != api.Mut {
-			continue
+		if p.Points[i].Rv == api.Ref || p.Points[i].Rv == api.Mut {
+			carried := alive.anyOf(m.Holders(i), len(p.Points))
+			list = append(list, lend(p, i, carried))
 		}
-		l := loan{point: i, place: p.Place(at.A.N, at.A.Proj), mut: at.Rv == api.Mut}
-		holders := m.Holders(i)
-		carried := alive.anyOf(holders, len(p.Points))
-		l.scope = scope(p, l, carried)
-		list = append(list, l)
 	}
 	return list
+}
+
+// lend tells the loan of a point that borrows.
+func lend(p program.Program, point int, carried []bool) loan {
+	at := p.Points[point]
+	l := loan{point: point, place: p.Place(at.A.N, at.A.Proj), mut: at.Rv == api.Mut, carried: carried}
+	starts := make([]bool, len(p.Points))
+	over := make([]bool, len(p.Points))
+	for i := 0; i < len(over); i++ {
+		same := !p.Renews(i, l.place.Var)
+		starts[i] = i == point && same
+		over[i] = paths.In(carried, i) && same
+	}
+	l.reached = paths.From(p, starts, over)
+	return l
+}
+
+func (l *loan) inScope(point int) bool {
+	return paths.In(l.carried, point) && l.reached.Reached(point)
 }
 
 // touched tells the point of the first loan in scope with which a visit of a point conflicts (-1: there is none).
 func touched(list []loan, point int, v program.Visit) int {
 	for i := 0; i < len(list); i++ {
-		if point < len(list[i].scope) && list[i].scope[point] && conflicts(v, list[i]) {
+		if list[i].inScope(point) && conflicts(v, list[i]) {
 			return list[i].point
 		}
 	}

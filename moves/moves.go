@@ -1,4 +1,4 @@
-// Package moves finds what is used without a value (P16).
+// Package moves finds what is used without a value (P16), and the reason (P22).
 package moves
 
 import (
@@ -25,8 +25,8 @@ func First(p program.Program) int {
 	t := start(p)
 	t.spread()
 	for i := 0; i < len(t.ahead); i++ {
-		_, found := t.pass(i)
-		if found {
+		_, cell := t.pass(i)
+		if cell >= 0 {
 			return i
 		}
 	}
@@ -77,19 +77,19 @@ func (t *table) join(point int, from state) bool {
 	return grown
 }
 
-// pass tells the state behind a point, and whether one of the point's needs may find a cell without a value. Each need finds what the operands ahead of it have left.
-func (t *table) pass(point int) (state, bool) {
+// pass tells the state behind a point, and the cell that the first of the point's needs may find without a value (-1: none does). Each need finds what the operands ahead of it have left.
+func (t *table) pass(point int) (state, int) {
 	if point < 0 || point >= len(t.ahead) || point >= len(t.program.Points) {
-		return state{}, false
+		return state{}, -1
 	}
 	now := state{lost: make([]bool, len(t.ahead[point].lost))}
 	copy(now.lost, t.ahead[point].lost)
-	found := false
+	cell := -1
 	visits := t.program.Visits(point)
 	for i := 0; i < len(visits); i++ {
 		first, last := t.cover(visits[i].Place)
-		if needs(visits[i]) && now.lacks(first, last) {
-			found = true
+		if cell < 0 && needs(visits[i]) {
+			cell = now.lacking(first, last)
 		}
 		now.visit(visits[i], first, last)
 	}
@@ -98,7 +98,7 @@ func (t *table) pass(point int) (state, bool) {
 		first, last := t.cover(t.program.Place(p.DVar, ""))
 		now.set(first, last, true)
 	}
-	return now, found
+	return now, cell
 }
 
 // needs tells whether the cells that a visited place covers must have values.
@@ -116,13 +116,14 @@ func (t *table) cover(p places.Place) (int, int) {
 	return first, first + count
 }
 
-func (s *state) lacks(first, last int) bool {
+// lacking tells the first of some cells that may have no value (-1: all have one).
+func (s *state) lacking(first, last int) int {
 	for c := first; c < last && c < len(s.lost); c++ {
 		if s.lost[c] {
-			return true
+			return c
 		}
 	}
-	return false
+	return -1
 }
 
 func (s *state) set(first, last int, lost bool) {

@@ -57,7 +57,7 @@ func wellFormed(t *testing.T, text string) {
 	}
 }
 
-// judged: what holds of every verdict of Check beside that of Graph.
+// judged: what holds of every verdict of Check beside that of Graph, and of its reason.
 func judged(t *testing.T, text string, points []api.Point, own api.Verdict) {
 	t.Helper()
 	v := borrowing.Check(text)
@@ -73,6 +73,13 @@ func judged(t *testing.T, text string, points []api.Point, own api.Verdict) {
 		v.Loan < -1 || v.Loan >= len(points),
 		v.Loan >= 0 && points[v.Loan].Rv != api.Ref && points[v.Loan].Rv != api.Mut:
 		t.Fatalf("P21: Check(%q): %s", text, showVerdict(v))
+	}
+	j := &judge{}
+	if own.Rule == api.Accept {
+		j = newJudge(graph(t, text))
+	}
+	if r := why(text); j.flaw(v, r) != "" {
+		t.Fatalf("P22: Why(%q): %s: %s (%s)", text, r, j.flaw(v, r), showVerdict(v))
 	}
 }
 

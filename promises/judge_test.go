@@ -33,25 +33,30 @@ type where struct {
 	target  bool // what is assigned to, dropped or ended
 }
 
-func judgement(text string) api.Verdict {
-	p, l, f, v := borrowing.Graph(text)
-	if v.Rule != api.Accept {
-		return v
-	}
+func newJudge(p []api.Point, l []api.Local, f []api.Func) *judge {
 	j := &judge{points: p, locals: l, funcs: f}
-	if at := j.uninit(); at >= 0 {
-		return j.verdict(api.RUninit, at, -1)
-	}
 	for i := range p {
 		j.ask(i)
 	}
-	if at := j.outlives(); at >= 0 {
-		return j.verdict(api.ROutlives, at, -1)
+	return j
+}
+
+func judgement(text string) (*judge, api.Verdict) {
+	p, l, f, v := borrowing.Graph(text)
+	if v.Rule != api.Accept {
+		return nil, v
+	}
+	j := newJudge(p, l, f)
+	if at := j.uninit(); at >= 0 {
+		return j, j.verdict(api.RUninit, at, -1)
+	}
+	if at, _, _, _ := j.outlives(); at >= 0 {
+		return j, j.verdict(api.ROutlives, at, -1)
 	}
 	if at, loan := j.borrowed(); at >= 0 {
-		return j.verdict(api.RBorrowed, at, loan)
+		return j, j.verdict(api.RBorrowed, at, loan)
 	}
-	return v
+	return j, v
 }
 
 func (j *judge) verdict(rule, at, loan int) api.Verdict {
@@ -179,6 +184,16 @@ func (j *judge) lost(cell string) map[int]bool {
 	return found
 }
 
+// needs: the places of which a point needs the cells, in order.
+func (j *judge) needs(i int) []where {
+	p := j.points[i]
+	list := j.operands(i)
+	if p.Kind == api.Drop || p.Kind == api.Assign && strings.Contains(p.DProj, "*") {
+		list = append(list, where{v: p.DVar, steps: p.DProj})
+	}
+	return list
+}
+
 func (j *judge) uninit() int {
 	lost := map[string]map[int]bool{}
 	for v := range j.locals {
@@ -186,13 +201,9 @@ func (j *judge) uninit() int {
 			lost[cell] = j.lost(cell)
 		}
 	}
-	for i, p := range j.points {
-		needs := j.operands(i)
-		if p.Kind == api.Drop || p.Kind == api.Assign && strings.Contains(p.DProj, "*") {
-			needs = append(needs, where{v: p.DVar, steps: p.DProj})
-		}
+	for i := range j.points {
 		gone := map[string]bool{}
-		for _, n := range needs {
+		for _, n := range j.needs(i) {
 			for cell := range j.covers(n.v, n.steps) {
 				if lost[cell][i] || gone[cell] {
 					return i
@@ -324,24 +335,30 @@ func (j *judge) far(from string) map[string]int {
 	}
 }
 
-func (j *judge) outlives() int {
+// lifetime: the region of a function's lifetime.
+func lifetime(f, number int) string {
+	return fmt.Sprint("fn ", f, string(rune('a'+number)))
+}
+
+// outlives: the point, the function, and the two lifetimes of which the one comes to the other.
+func (j *judge) outlives() (point, function, one, other int) {
 	for f, known := range j.funcs {
 		for a := 0; a < known.Lives; a++ {
-			far := j.far(fmt.Sprint("fn ", f, string(rune('a'+a))))
+			far := j.far(lifetime(f, a))
 			for b := 0; b < known.Lives; b++ {
-				to := fmt.Sprint("fn ", f, string(rune('a'+b)))
+				to := lifetime(f, b)
 				if _, ok := far[to]; !ok || a == b {
 					continue
 				}
 				for _, asks := range j.asked {
 					if d, ok := far[asks.from]; ok && asks.to == to && d == far[to]-1 {
-						return asks.point
+						return asks.point, f, a, b
 					}
 				}
 			}
 		}
 	}
-	return -1
+	return -1, -1, -1, -1
 }
 
 func (j *judge) uses(i, v int) bool {
@@ -466,7 +483,8 @@ func TestP21TheJudge(t *testing.T) {
 	rules := map[int]int{}
 	list := append(programs(t, 31, 1500), tangles(t, 32, 3000)...)
 	for _, text := range list {
-		got, want := borrowing.Check(text), judgement(text)
+		got := borrowing.Check(text)
+		_, want := judgement(text)
 		rules[want.Rule]++
 		if got != want {
 			t.Fatalf("P21: Check(%q): %s, want %s", text, showVerdict(got), showVerdict(want))

@@ -335,6 +335,12 @@ func tangles(t *testing.T, seed uint64, many int) []string {
 	return written(t, &writer{d: &dice{seed}, kinds: tangleKinds, ready: []string{"i", "i", "ri", "mi"}}, many)
 }
 
+// braids: programs by chance in which references are handed on from variable to variable.
+func braids(t *testing.T, seed uint64, many int) []string {
+	t.Helper()
+	return written(t, &writer{d: &dice{seed}, kinds: []string{"ri", "ri", "ri", "ri", "bri", "piri", "rri", "mri", "i"}, ready: []string{"i", "ri", "ri", "ri", "mri"}}, many)
+}
+
 func written(t *testing.T, w *writer, many int) []string {
 	t.Helper()
 	var list []string

@@ -37,13 +37,14 @@ func safe(t *testing.T, text string, d *dice) int {
 
 var linesOf = strings.NewReplacer(";", ";\n", "{", "{\n", "}", "}\n")
 
-// mended: a program from which statements that the checker refuses, or what they conflict with, are struck until it accepts the rest; "": it came to no end.
-func mended(t *testing.T, text string, d *dice) string {
+// mended: a program from which statements that the checker refuses, or what they conflict with, are struck until it accepts the rest; "": it came to no end. Each text on the way is shown.
+func mended(t *testing.T, text string, d *dice, show func(text string, v api.Verdict)) string {
 	t.Helper()
 	lines := strings.Split(linesOf.Replace(text), "\n")
 	for {
 		text := strings.Join(lines, "\n")
 		v := borrowing.Check(text)
+		show(text, v)
 		if v.Rule == api.Accept {
 			return text
 		}
@@ -69,7 +70,7 @@ func TestP21AcceptedIsSafe(t *testing.T) {
 	d := &dice{5}
 	many, lending := 0, 0
 	for _, text := range append(programs(t, 41, 800), tangles(t, 42, 2500)...) {
-		text = mended(t, text, d)
+		text = mended(t, text, d, func(string, api.Verdict) {})
 		if text == "" {
 			continue
 		}

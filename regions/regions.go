@@ -1,4 +1,4 @@
-// Package regions tells in which regions a program's loans are (P17), and which lifetimes come to others (P18).
+// Package regions tells in which regions a program's loans are (P17), which lifetimes come to others (P18), and over which points (P22).
 package regions
 
 import (
